@@ -2,6 +2,7 @@ package tests
 
 import (
 	"math"
+	"regexp"
 	"slices"
 	"strconv"
 	"strings"
@@ -92,8 +93,11 @@ func allOf(list []string, is func(string) bool) bool {
 	return !slices.ContainsFunc(list, func(text string) bool { return !is(text) })
 }
 
+// namePattern is made once, as names are asked for more often than anything else.
+var namePattern = regexp.MustCompile("^[A-Z][A-Z0-9-]{0,11}$")
+
 func plainName(text string) bool {
-	return matches("[A-Z][A-Z0-9-]{0,11}", text)
+	return namePattern.MatchString(text)
 }
 
 func plainText(text string) bool {
