@@ -1,6 +1,7 @@
 package tests
 
 import (
+	"fmt"
 	"reflect"
 	"strings"
 	"testing"
@@ -47,6 +48,12 @@ func same(t *testing.T, what string, got any, want any) {
 	if !reflect.DeepEqual(got, want) {
 		t.Errorf("%s: got %+v, want %+v", what, got, want)
 	}
+}
+
+// short tells a thing in so few words that a fault can be read.
+func short(thing any) string {
+	text := fmt.Sprintf("%+v", thing)
+	return text[:min(len(text), 600)]
 }
 
 // plainMark says, byte by byte as chapter 2 lists them, what may stand in a Syntax.

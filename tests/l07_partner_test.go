@@ -200,7 +200,7 @@ func TestPartnerRight(t *testing.T) {
 	}
 	for _, p := range changedPartners() {
 		if got, want := impl.PartnerRight(p), partnerPlainly(p); got != want {
-			t.Errorf("%.300v: right is %v, want %v", p, got, want)
+			t.Errorf("%s: right is %v, want %v", short(p), got, want)
 		}
 	}
 }

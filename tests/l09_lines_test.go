@@ -136,7 +136,7 @@ func addPlainly(list []impl.OrderLine, l impl.OrderLine) []impl.OrderLine {
 func sameLines(t *testing.T, what string, got []impl.OrderLine, want []impl.OrderLine) {
 	t.Helper()
 	if !slices.Equal(got, want) {
-		t.Errorf("%s: got %.600v, want %.600v", what, got, want)
+		t.Errorf("%s: got %s, want %s", what, short(got), short(want))
 	}
 }
 
@@ -154,17 +154,17 @@ func checkOrderLine(t *testing.T, l impl.OrderLine) bool {
 	t.Helper()
 	right := orderLinePlainly(l)
 	if got := impl.LineRight(l); got != right {
-		t.Errorf("%.300v: right is %v, want %v", l, got, right)
+		t.Errorf("%s: right is %v, want %v", short(l), got, right)
 	}
 	if got := impl.LinesRight([]impl.OrderLine{l}); got != right {
-		t.Errorf("%.300v: right alone in a list is %v, want %v", l, got, right)
+		t.Errorf("%s: right alone in a list is %v, want %v", short(l), got, right)
 	}
 	if right {
 		checkAllTold(t, l)
 		same(t, "open", impl.LineOpen(l), l.Ordered-(l.Sent+l.Cut))
 		same(t, "in transit", impl.LineTransit(l), l.Sent-l.Got)
 	} else if impl.LineOpen(l) != 0 || impl.LineTransit(l) != 0 {
-		t.Errorf("%.300v: open %d, in transit %d, want noughts", l, impl.LineOpen(l), impl.LineTransit(l))
+		t.Errorf("%s: open %d, in transit %d, want noughts", short(l), impl.LineOpen(l), impl.LineTransit(l))
 	}
 	return right
 }
@@ -174,7 +174,7 @@ func checkPost(t *testing.T, l impl.OrderLine, kind int64, qty int64) impl.PostO
 	t.Helper()
 	out, want := impl.LinePost(l, kind, qty), postPlainly(l, kind, qty)
 	if out != want {
-		t.Errorf("%.300v, kind %d, %d pieces: got %.300v, want %.300v", l, kind, qty, out, want)
+		t.Errorf("%s, kind %d, %d pieces: got %s, want %s", short(l), kind, qty, short(out), short(want))
 	}
 	if out.Code != impl.OK {
 		return out
@@ -189,10 +189,10 @@ func checkPost(t *testing.T, l impl.OrderLine, kind int64, qty int64) impl.PostO
 func checkLines(t *testing.T, list []impl.OrderLine, l impl.OrderLine) {
 	t.Helper()
 	if got, want := impl.LinesRight(list), linesPlainly(list); got != want {
-		t.Errorf("%.600v: right is %v, want %v", list, got, want)
+		t.Errorf("%s: right is %v, want %v", short(list), got, want)
 	}
 	if got, want := impl.LineFind(list, l.Partner, l.Ref, l.No), findPlainly(list, l.Partner, l.Ref, l.No); got != want {
-		t.Errorf("%.600v: %.100v is found at %d, want %d", list, l, got, want)
+		t.Errorf("%s: %s is found at %d, want %d", short(list), short(l), got, want)
 	}
 	sameLines(t, "add", impl.LinesAdd(list, l), addPlainly(list, l))
 }
@@ -205,7 +205,7 @@ func checkAdded(t *testing.T, list []impl.OrderLine, l impl.OrderLine) {
 	same(t, "right", impl.LinesRight(behind), true)
 	place := impl.LineFind(behind, l.Partner, l.Ref, l.No)
 	if place < 0 || place >= int64(len(behind)) || behind[place] != l {
-		t.Errorf("%.600v: %v is found at %d", behind, l, place)
+		t.Errorf("%s: %v is found at %d", short(behind), l, place)
 		return
 	}
 	for at, other := range list {
