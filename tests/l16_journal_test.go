@@ -428,13 +428,8 @@ func TestEveryShortLine(t *testing.T) {
 	same(t, "rights", rights, 2+2*2*2+2+1)
 }
 
-// What stands one byte away from a right journal is read as another one, or not at all.
-func TestTextsOneByteAwayFromAJournal(t *testing.T) {
-	text := impl.EventsText([]impl.Event{admits("ACME"), crossing("A", "B-1", "C"), taking("A\xff"), taking(""), nextDay()})
-	codes := map[int64]int{}
-	check := func(changed string) {
-		codes[checkJournalRead(t, changed).Code]++
-	}
+// eachByteAway checks the beginnings and ends of a text, and all texts with one byte more, less or changed.
+func eachByteAway(text string, check func(changed string)) {
 	for at := range len(text) + 1 {
 		check(text[:at])
 		check(text[at:])
@@ -448,6 +443,16 @@ func TestTextsOneByteAwayFromAJournal(t *testing.T) {
 			check(text[:at] + text[at+1:])
 		}
 	}
+}
+
+// What stands one byte away from a right journal is read as another one, or not at all.
+func TestTextsOneByteAwayFromAJournal(t *testing.T) {
+	text := impl.EventsText([]impl.Event{admits("ACME"), crossing("A", "B-1", "C"), taking("A\xff"), taking(""), nextDay()})
+	codes := map[int64]int{}
+	check := func(changed string) {
+		codes[checkJournalRead(t, changed).Code]++
+	}
+	eachByteAway(text, check)
 	same(t, "read", codes[impl.OK] > 100, true)
 	same(t, "not read", codes[impl.ErrSyntax] > 1000, true)
 }
